@@ -1,6 +1,10 @@
 package addr
 
-import "strings"
+import (
+	"strings"
+
+	"post/ascii"
+)
 
 // cursor goes through a text from the left. A method that answers false leaves it at the byte that cannot stand there, or at the text's end.
 type cursor struct {
@@ -79,7 +83,7 @@ func (c *cursor) domain() (string, int, bool) {
 		}
 		longest = max(longest, size)
 		if !c.skip('.') {
-			return lower(c.text[start:c.at]), longest, true
+			return ascii.Lower(c.text[start:c.at]), longest, true
 		}
 	}
 }
@@ -92,16 +96,4 @@ func (c *cursor) label() (int, bool) {
 	c.skipAll(inLabel)
 	// A sign behind the last "-" could mend the label: the place of the fault is behind it.
 	return c.at - start, has(c.text[c.at-1], atEdge)
-}
-
-func lower(s string) string {
-	var b strings.Builder
-	for i := range len(s) {
-		sign := s[i]
-		if 'A' <= sign && sign <= 'Z' {
-			sign += 'a' - 'A'
-		}
-		b.WriteByte(sign)
-	}
-	return b.String()
 }
