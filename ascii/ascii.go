@@ -15,3 +15,8 @@ func Lower(s string) string {
 	}
 	return b.String()
 }
+
+// Same tells whether two texts differ by A to Z and a to z alone.
+func Same(a string, b string) bool {
+	return len(a) == len(b) && Lower(a) == Lower(b)
+}

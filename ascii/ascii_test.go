@@ -9,3 +9,16 @@ func TestLower(t *testing.T) {
 		}
 	}
 }
+
+func TestSame(t *testing.T) {
+	for _, pair := range [][2]string{{"", ""}, {"aBz", "AbZ"}, {"a\xffZ", "A\xffz"}} {
+		if !Same(pair[0], pair[1]) {
+			t.Errorf("%q and %q are told to be other", pair[0], pair[1])
+		}
+	}
+	for _, pair := range [][2]string{{"", "a"}, {"a", "ab"}, {"a", "b"}, {"@", "`"}, {"[", "{"}, {"k", "\u212a"}, {"\u00e4", "\u00c4"}} {
+		if Same(pair[0], pair[1]) || Same(pair[1], pair[0]) {
+			t.Errorf("%q and %q are told to be the same", pair[0], pair[1])
+		}
+	}
+}
